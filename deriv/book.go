@@ -71,7 +71,8 @@ func (b *book) Cat(x, y int) int {
 	case y == empty:
 		return x
 	}
-	return b.number(api.Node{Op: api.Cat, A: x, B: y}, b.bare[x] && b.bare[y])
+	bare := b.bare[x] && b.bare[y]
+	return b.number(api.Node{Op: api.Cat, A: x, B: y}, bare)
 }
 
 // Alt tells the number of one part or the other.
@@ -81,7 +82,8 @@ func (b *book) Alt(x, y int) int {
 	if x == y || y == nothing || y == empty && b.bare[x] {
 		return x
 	}
-	return b.number(api.Node{Op: api.Alt, A: x, B: y}, b.bare[x] || b.bare[y])
+	bare := b.bare[x] || b.bare[y]
+	return b.number(api.Node{Op: api.Alt, A: x, B: y}, bare)
 }
 
 // Rep tells the number of a part from lo to hi times.
